@@ -5,41 +5,7 @@ import (
 
 	"diapause/api"
 	"diapause/ints"
-)
-
-// The opcodes of all instructions but the numeric ones.
-const (
-	opUnreachable  = 0x00
-	opNop          = 0x01
-	opBlock        = 0x02
-	opLoop         = 0x03
-	opIf           = 0x04
-	opElse         = 0x05
-	opEnd          = 0x0b
-	opBr           = 0x0c
-	opBrIf         = 0x0d
-	opBrTable      = 0x0e
-	opReturn       = 0x0f
-	opCall         = 0x10
-	opCallIndirect = 0x11
-	opDrop         = 0x1a
-	opSelect       = 0x1b
-	opLocalGet     = 0x20
-	opLocalSet     = 0x21
-	opLocalTee     = 0x22
-	opGlobalGet    = 0x23
-	opGlobalSet    = 0x24
-	opI32Load      = 0x28
-	opI64Load      = 0x29
-	opI32Load8S    = 0x2c
-	opI32Load8U    = 0x2d
-	opI32Store     = 0x36
-	opI64Store     = 0x37
-	opI32Store8    = 0x3a
-	opMemorySize   = 0x3f
-	opMemoryGrow   = 0x40
-	opI32Const     = 0x41
-	opI64Const     = 0x42
+	"diapause/ops"
 )
 
 // The greatest alignments, for accesses of 1, 4 and 8 bytes.
@@ -52,30 +18,30 @@ const (
 // pass goes on by an instruction.
 func (c *checker) pass(x api.Instr) {
 	switch x.Op {
-	case opNop:
-	case opUnreachable:
+	case ops.Nop:
+	case ops.Unreachable:
 		c.leave()
-	case opBlock, opLoop, opIf, opElse, opEnd:
+	case ops.Block, ops.Loop, ops.If, ops.Else, ops.End:
 		c.nest(x)
-	case opBr, opBrIf, opBrTable, opReturn:
+	case ops.Br, ops.BrIf, ops.BrTable, ops.Return:
 		c.branch(x)
-	case opCall, opCallIndirect:
+	case ops.Call, ops.CallIndirect:
 		c.call(x)
-	case opDrop:
+	case ops.Drop:
 		c.pop()
-	case opSelect:
+	case ops.Select:
 		c.choose()
-	case opLocalGet, opLocalSet, opLocalTee:
+	case ops.LocalGet, ops.LocalSet, ops.LocalTee:
 		c.local(x)
-	case opGlobalGet, opGlobalSet:
+	case ops.GlobalGet, ops.GlobalSet:
 		c.global(x)
-	case opI32Load, opI32Load8S, opI32Load8U, opI64Load, opI32Store, opI32Store8, opI64Store:
+	case ops.I32Load, ops.I32Load8S, ops.I32Load8U, ops.I64Load, ops.I32Store, ops.I32Store8, ops.I64Store:
 		c.access(x)
-	case opMemorySize, opMemoryGrow:
+	case ops.MemorySize, ops.MemoryGrow:
 		c.pages(x.Op)
-	case opI32Const:
+	case ops.I32Const:
 		c.push(api.I32)
-	case opI64Const:
+	case ops.I64Const:
 		c.push(api.I64)
 	default:
 		c.calculate(x.Op)
@@ -85,12 +51,12 @@ func (c *checker) pass(x api.Instr) {
 // nest begins, parts or ends a block.
 func (c *checker) nest(x api.Instr) {
 	switch x.Op {
-	case opIf:
+	case ops.If:
 		c.take(api.I32)
 		c.begin(x.Op, resultOf(x.A))
-	case opElse:
+	case ops.Else:
 		c.part()
-	case opEnd:
+	case ops.End:
 		c.end()
 	default:
 		c.begin(x.Op, resultOf(x.A))
@@ -108,15 +74,15 @@ func resultOf(a int64) []int {
 // branch goes out to a block, or to one of several.
 func (c *checker) branch(x api.Instr) {
 	switch x.Op {
-	case opBr:
+	case ops.Br:
 		c.take(c.label(x.A)...)
 		c.leave()
-	case opBrIf:
+	case ops.BrIf:
 		c.take(api.I32)
 		kinds := c.label(x.A)
 		c.take(kinds...)
 		c.push(kinds...)
-	case opBrTable:
+	case ops.BrTable:
 		c.take(api.I32)
 		kinds := c.label(x.A)
 		for _, out := range x.L {
@@ -124,7 +90,7 @@ func (c *checker) branch(x api.Instr) {
 		}
 		c.take(kinds...)
 		c.leave()
-	case opReturn:
+	case ops.Return:
 		c.take(c.blocks[0].result...)
 		c.leave()
 	}
@@ -134,7 +100,7 @@ func (c *checker) branch(x api.Instr) {
 func (c *checker) call(x api.Instr) {
 	var t api.Type
 	var ok bool
-	if x.Op == opCall {
+	if x.Op == ops.Call {
 		t, ok = typeOf(c.m, x.A)
 	} else {
 		c.need(c.m.Table.Has)
@@ -159,10 +125,10 @@ func (c *checker) choose() {
 func (c *checker) local(x api.Instr) {
 	kind, ok := at(c.locals, x.A)
 	c.need(ok)
-	if x.Op != opLocalGet {
+	if x.Op != ops.LocalGet {
 		c.take(kind)
 	}
-	if x.Op != opLocalSet {
+	if x.Op != ops.LocalSet {
 		c.push(kind)
 	}
 }
@@ -171,7 +137,7 @@ func (c *checker) local(x api.Instr) {
 func (c *checker) global(x api.Instr) {
 	g, ok := at(c.m.Globals, x.A)
 	c.need(ok)
-	if x.Op == opGlobalGet {
+	if x.Op == ops.GlobalGet {
 		c.push(g.Init.Kind)
 		return
 	}
@@ -185,7 +151,7 @@ func (c *checker) access(x api.Instr) {
 	c.need(c.m.Mem.Has)
 	c.need(x.A <= most)
 	switch x.Op {
-	case opI32Store, opI32Store8, opI64Store:
+	case ops.I32Store, ops.I32Store8, ops.I64Store:
 		c.take(api.I32, kind)
 	default:
 		c.take(api.I32)
@@ -196,9 +162,9 @@ func (c *checker) access(x api.Instr) {
 // accessed returns the kind of what is loaded or stored, and the greatest alignment.
 func accessed(op int) (kind int, most int64) {
 	switch op {
-	case opI64Load, opI64Store:
+	case ops.I64Load, ops.I64Store:
 		return api.I64, align8
-	case opI32Load, opI32Store:
+	case ops.I32Load, ops.I32Store:
 		return api.I32, align4
 	}
 	return api.I32, align1
@@ -207,7 +173,7 @@ func accessed(op int) (kind int, most int64) {
 // pages asks for the memory's size, or lets it grow.
 func (c *checker) pages(op int) {
 	c.need(c.m.Mem.Has)
-	if op == opMemoryGrow {
+	if op == ops.MemoryGrow {
 		c.take(api.I32)
 	}
 	c.push(api.I32)

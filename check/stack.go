@@ -4,6 +4,7 @@ import (
 	"slices"
 
 	"diapause/api"
+	"diapause/ops"
 )
 
 // anyKind stands for the kind of a value that nothing has pushed, as what takes it is never reached.
@@ -83,14 +84,14 @@ func (c *checker) close() block {
 // part goes over to the other side of an if.
 func (c *checker) part() {
 	b := c.close()
-	c.begin(opElse, b.result)
+	c.begin(ops.Else, b.result)
 }
 
 // end ends the innermost block.
 func (c *checker) end() {
 	b := c.close()
 	// Where the condition fails, an if without an else leaves no result.
-	c.need(b.op != opIf || len(b.result) == 0)
+	c.need(b.op != ops.If || len(b.result) == 0)
 	c.push(b.result...)
 }
 
@@ -105,7 +106,7 @@ func (c *checker) leave() {
 func (c *checker) label(out int64) []int {
 	b, ok := at(c.blocks, int64(len(c.blocks))-1-out)
 	c.need(ok)
-	if b.op == opLoop {
+	if b.op == ops.Loop {
 		return nil
 	}
 	return b.result

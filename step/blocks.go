@@ -5,6 +5,7 @@ import (
 
 	"diapause/api"
 	"diapause/code"
+	"diapause/ops"
 	"diapause/state"
 )
 
@@ -47,7 +48,7 @@ func (t *turn) branch(far int) {
 	f.Labels = f.Labels[:len(f.Labels)-far]
 	l := f.Labels[len(f.Labels)-1]
 	begin := t.body[l.At]
-	if begin.Op == opLoop {
+	if begin.Op == ops.Loop {
 		t.keep(l.Height, 0)
 		f.Pc = l.At + 1
 		return

@@ -3,6 +3,7 @@ package step
 import (
 	"diapause/api"
 	"diapause/ints"
+	"diapause/ops"
 )
 
 // address takes an address, from which a load or a store counts its offset.
@@ -18,9 +19,9 @@ func (t *turn) load(i api.Instr) api.Outcome {
 	}
 	n := int64(x)
 	switch i.Op {
-	case opI64Load:
+	case ops.I64Load:
 		t.push(ints.Wrap(api.I64, n))
-	case opI32Load8S:
+	case ops.I32Load8S:
 		t.pushI32(int64(int8(n)))
 	default:
 		t.pushI32(n)
@@ -42,9 +43,9 @@ func (t *turn) store(i api.Instr) api.Outcome {
 // width returns how many bytes a load or a store accesses.
 func width(op int) int {
 	switch op {
-	case opI64Load, opI64Store:
+	case ops.I64Load, ops.I64Store:
 		return 8
-	case opI32Load, opI32Store:
+	case ops.I32Load, ops.I32Store:
 		return 4
 	}
 	return 1
@@ -53,7 +54,7 @@ func width(op int) int {
 // pages asks for the memory's size, or lets it grow.
 func (t *turn) pages(op int) {
 	m := t.x.Mem()
-	if op == opMemorySize {
+	if op == ops.MemorySize {
 		t.pushI32(int64(m.Pages()))
 		return
 	}

@@ -4,6 +4,7 @@ import (
 	"diapause/api"
 	"diapause/inst"
 	"diapause/ints"
+	"diapause/ops"
 	"diapause/state"
 )
 
@@ -46,7 +47,7 @@ func (t *turn) fetch() api.Instr {
 	f.Pc++
 	if t.at == len(t.body) {
 		// The end of the body does what a return does.
-		return api.Instr{Op: opReturn}
+		return api.Instr{Op: ops.Return}
 	}
 	return t.body[t.at]
 }
@@ -60,49 +61,49 @@ func (t *turn) frame() *state.Frame {
 func (t *turn) execute(i api.Instr) api.Outcome {
 	far := i.A // of a branch: how far out the block is that it refers to
 	switch i.Op {
-	case opUnreachable:
+	case ops.Unreachable:
 		return trapped(api.TrapUnreachable)
-	case opNop:
-	case opBlock, opLoop:
+	case ops.Nop:
+	case ops.Block, ops.Loop:
 		t.begin()
-	case opIf:
+	case ops.If:
 		t.beginIf()
-	case opElse:
+	case ops.Else:
 		t.goBehind(t.end())
-	case opEnd:
+	case ops.End:
 		t.end()
-	case opBr:
+	case ops.Br:
 		goto branch
-	case opBrIf:
+	case ops.BrIf:
 		if t.take().N != 0 {
 			goto branch
 		}
-	case opBrTable:
+	case ops.BrTable:
 		far = picked(i, t.takeUnsigned())
 		goto branch
-	case opReturn:
+	case ops.Return:
 		goto leave
-	case opCall:
+	case ops.Call:
 		return t.call(int(i.A))
-	case opCallIndirect:
+	case ops.CallIndirect:
 		return t.callElem(int(i.A))
-	case opDrop:
+	case ops.Drop:
 		t.take()
-	case opSelect:
+	case ops.Select:
 		t.choose()
-	case opLocalGet, opLocalSet, opLocalTee:
+	case ops.LocalGet, ops.LocalSet, ops.LocalTee:
 		t.local(i)
-	case opGlobalGet, opGlobalSet:
+	case ops.GlobalGet, ops.GlobalSet:
 		t.global(i)
-	case opI32Load, opI64Load, opI32Load8S, opI32Load8U:
+	case ops.I32Load, ops.I64Load, ops.I32Load8S, ops.I32Load8U:
 		return t.load(i)
-	case opI32Store, opI64Store, opI32Store8:
+	case ops.I32Store, ops.I64Store, ops.I32Store8:
 		return t.store(i)
-	case opMemorySize, opMemoryGrow:
+	case ops.MemorySize, ops.MemoryGrow:
 		t.pages(i.Op)
-	case opI32Const:
+	case ops.I32Const:
 		t.push(ints.Wrap(api.I32, i.A))
-	case opI64Const:
+	case ops.I64Const:
 		t.push(ints.Wrap(api.I64, i.A))
 	default:
 		return t.calculate(i.Op)

@@ -5,6 +5,7 @@ import (
 
 	"diapause/api"
 	"diapause/ints"
+	"diapause/ops"
 )
 
 // push lays a value on the stack.
@@ -56,12 +57,12 @@ func (t *turn) choose() {
 // local reads or writes a local.
 func (t *turn) local(i api.Instr) {
 	l := &t.frame().Locals[i.A]
-	if i.Op == opLocalGet {
+	if i.Op == ops.LocalGet {
 		t.push(*l)
 		return
 	}
 	*l = t.take()
-	if i.Op == opLocalTee {
+	if i.Op == ops.LocalTee {
 		t.push(*l)
 	}
 }
@@ -69,7 +70,7 @@ func (t *turn) local(i api.Instr) {
 // global reads or writes a global.
 func (t *turn) global(i api.Instr) {
 	g := int(i.A)
-	if i.Op == opGlobalGet {
+	if i.Op == ops.GlobalGet {
 		v, _ := t.x.Space().Global(g)
 		t.push(v)
 		return

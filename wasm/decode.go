@@ -7,6 +7,7 @@ import (
 	"diapause/code"
 	"diapause/instr"
 	"diapause/leb"
+	"diapause/ops"
 )
 
 // numberBits are those of the numbers in an encoding.
@@ -166,9 +167,9 @@ func getConstant(r *reader) api.Val {
 	r.pass(n)
 	r.pass(1) // its end
 	switch x.Op {
-	case opI32Const:
+	case ops.I32Const:
 		return api.Val{Kind: api.I32, N: x.A}
-	case opI64Const:
+	case ops.I64Const:
 		return api.Val{Kind: api.I64, N: x.A}
 	}
 	return api.Val{}

@@ -7,6 +7,7 @@ import (
 	"diapause/code"
 	"diapause/instr"
 	"diapause/leb"
+	"diapause/ops"
 )
 
 // encoded returns the encoding of m, of whatever length, if all that m has may be there.
@@ -102,11 +103,11 @@ func putMut(mut bool) []byte {
 }
 
 func putConstant(v api.Val) []byte {
-	op := opI32Const
+	op := ops.I32Const
 	if v.Kind == api.I64 {
-		op = opI64Const
+		op = ops.I64Const
 	}
-	return append(instr.Put(nil, api.Instr{Op: op, A: v.N}), opEnd)
+	return append(instr.Put(nil, api.Instr{Op: op, A: v.N}), ops.End)
 }
 
 func putExport(e api.Export) []byte {
