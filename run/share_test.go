@@ -1,9 +1,7 @@
 package run_test
 
 import (
-	"cmp"
 	"fmt"
-	"reflect"
 	"slices"
 	"sync"
 	"testing"
@@ -12,45 +10,6 @@ import (
 	"diapause/run"
 	"diapause/state"
 )
-
-// span is the memory of one list, with what is spare behind it.
-type span struct{ from, to uintptr }
-
-// spans are those of all lists of a value, also of those that are spare behind its lists.
-func spans(v reflect.Value) []span {
-	var all []span
-	switch v.Kind() {
-	case reflect.Slice:
-		if v.Cap() > 0 {
-			from := v.Pointer()
-			all = append(all, span{from, from + uintptr(v.Cap())*v.Type().Elem().Size()})
-		}
-		whole := v.Slice3(0, v.Cap(), v.Cap())
-		for k := range whole.Len() {
-			all = append(all, spans(whole.Index(k))...)
-		}
-	case reflect.Struct:
-		for k := range v.NumField() {
-			all = append(all, spans(v.Field(k))...)
-		}
-	}
-	return all
-}
-
-// apart tells whether no two lists of these values have memory in common.
-func apart(values ...any) bool {
-	var all []span
-	for _, v := range values {
-		all = append(all, spans(reflect.ValueOf(v))...)
-	}
-	slices.SortFunc(all, func(a, b span) int { return cmp.Compare(a.from, b.from) })
-	for k := 1; k < len(all); k++ {
-		if all[k].from < all[k-1].to {
-			return false
-		}
-	}
-	return true
-}
 
 // fill overwrites l and what is spare behind it.
 func fill[E any](l []E, x E) {
@@ -121,16 +80,19 @@ func steps(t *testing.T, look func(c *run.Machine)) {
 func TestResults(t *testing.T) {
 	steps(t, func(c *run.Machine) {
 		before := told(c)
-		goes, out, again := c.Go(0), c.Out(), c.Out()
-		s, more := c.State(), c.State()
-		if !apart(goes, out, again, s, more) {
-			t.Fatalf("P0.3: results share memory: %s", before)
-		}
-		for _, o := range []api.Outcome{goes, out, again} {
+		outs := []api.Outcome{c.Go(0), c.Out(), c.Out()}
+		states := []state.State{c.State(), c.State()}
+		for k, o := range outs {
 			fill(o.Vals, i64(77))
+			if rest := outs[k+1:]; len(rest) > 0 && fmt.Sprint(rest[0]) != fmt.Sprint(c.Out()) {
+				t.Fatalf("P0.3: two Outcomes share memory: %s", before)
+			}
 		}
-		spoil(s)
-		spoil(more)
+		spoil(states[0])
+		if !state.Eq(states[1], c.State()) {
+			t.Fatalf("P0.3: two states share memory: %s", before)
+		}
+		spoil(states[1])
 		if told(c) != before {
 			t.Fatalf("P0.3: a change of what was told shows: %s, was %s", told(c), before)
 		}
@@ -140,7 +102,7 @@ func TestResults(t *testing.T) {
 		out := c.Go(100)
 		before := told(c)
 		fill(out.Vals, i64(77))
-		if told(c) != before || before == "" {
+		if told(c) != before {
 			t.Errorf("P0.3: a change of what Go told shows: %s, was %s", told(c), before)
 		}
 	}
