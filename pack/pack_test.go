@@ -5,6 +5,7 @@ import (
 	"fmt"
 	"math"
 	"slices"
+	"strings"
 	"testing"
 
 	"diapause/api"
@@ -28,6 +29,18 @@ func TestNumbers(t *testing.T) {
 		}
 		if got := pack.NewReader(b).Signed(); got != n {
 			t.Errorf("Signed reads %x: got %d, want %d", b, got, n)
+		}
+	}
+}
+
+// TestForm holds the bytes of what dir takes from here: there the document says what they are.
+func TestForm(t *testing.T) {
+	for n, want := range map[int]string{0: "00", 1: "0162", 128: "8001" + strings.Repeat("62", 128)} {
+		if got := fmt.Sprintf("%x", pack.Bytes(bytes.Repeat([]byte("b"), n))); got != want {
+			t.Errorf("%d Bytes: got %s, want %s", n, got, want)
+		}
+		if got := fmt.Sprintf("%x", pack.List(slices.Repeat([]int{0x62}, n), pack.Number)); got != want {
+			t.Errorf("a List of %d: got %s, want %s", n, got, want)
 		}
 	}
 }

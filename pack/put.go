@@ -1,5 +1,6 @@
 // Package pack makes bytes of numbers, values and lists, and reads them again: what the encodings are made of whose form the
-// document leaves open. Each thing tells itself where it ends, so that different things, one behind the other, give different bytes.
+// document leaves open, and that of dir, for which the document asks just this form of numbers, byte strings and lists.
+// Each thing tells itself where it ends, so that different things, one behind the other, give different bytes.
 package pack
 
 import (
